@@ -154,7 +154,7 @@ func TestLikeAList(t *testing.T) {
 	}
 }
 
-func run[T comparable](t *testing.T, room int, make func(i int) T) {
+func run[T comparable](t *testing.T, room int, elem func(i int) T) {
 	t.Helper()
 	r := made[T](t, room)
 	var l []T
@@ -163,11 +163,11 @@ func run[T comparable](t *testing.T, room int, make func(i int) T) {
 		seed = seed*1664525 + 1013904223
 		switch k := seed >> 24; {
 		case k < 130:
-			if r.Put(make(i)) != (len(l) < room) {
+			if r.Put(elem(i)) != (len(l) < room) {
 				t.Fatal("Put")
 			}
 			if len(l) < room {
-				l = append(l, make(i))
+				l = append(l, elem(i))
 			}
 		case k < 230:
 			x, ok := r.Take()
