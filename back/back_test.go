@@ -337,6 +337,9 @@ func TestEachPairOnce(t *testing.T) {
 	if got, ok := back.Find(compiled(t, "x|bb"), 0, long); ok {
 		t.Error(got)
 	}
+	if got, ok := back.Find(compiled(t, "(?:a|b)*x"), 0, long); ok {
+		t.Error(got)
+	}
 	if got, ok := back.Find(compiled(t, "^(?:ab)*$"), 0, long); got != caps(0, 100000) || !ok {
 		t.Error(got, ok)
 	}

@@ -510,9 +510,9 @@ func TestOpenErrors(t *testing.T) {
 	}
 	d := disk.New()
 	j, _ := journal.Open(d)
-	j.Set(journal.Change{Slot: 0, Data: good}, journal.Change{Slot: 1, Data: live(1)}, journal.Change{Slot: 5, Data: dead(5)})
+	j.Set(journal.Change{Slot: 0, Data: good}, journal.Change{Slot: 1, Data: live(1)}, journal.Change{Slot: 5, Data: dead(5)}, journal.Change{Slot: 12, Data: dead(12)})
 	f := opened(t, d, yard.New())
-	if ats(f) != "1.1@0" || f.Gen(5) != 7 || f.Gen(1) != 1 {
+	if ats(f) != "1.1@0" || f.Gen(5) != 7 || f.Gen(1) != 1 || f.Gen(12) != 7 {
 		t.Error(ats(f), f.Gen(5))
 	}
 	if r, ok := f.Rules(); !ok || r.Name(0) != "a" {

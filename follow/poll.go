@@ -53,26 +53,25 @@ func (f *Follower) examine(x api.File) api.Errno {
 		return err
 	}
 	fresh := !p.Live || !ident.Same(p.Head, p.At, x.Size, first)
-	s, err := f.resumed(p, fresh)
-	if err != api.OK {
-		return err
-	}
 	if fresh {
 		p = point.Point{Live: true, Entry: api.Entry{Ino: x.Ino, Gen: p.Gen + 1}}
 	}
-	head := ident.Head(first)
-	changed := head != p.Head
-	p.Head = head
 	more, err := f.yard.Read(x.Ino, p.At, x.Size-p.At)
+	if err != api.OK {
+		return err
+	}
+	head := ident.Head(first)
+	if !fresh && len(more) == 0 && head == p.Head {
+		return api.OK
+	}
+	p.Head = head
+	s, err := f.resumed(p, fresh)
 	if err != api.OK {
 		return err
 	}
 	err = f.record(p.Entry, s.Feed(more))
 	if err != api.OK {
 		return err
-	}
-	if !fresh && len(more) == 0 && !changed {
-		return api.OK
 	}
 	p.Stream = s.State()
 	return f.keep(p)

@@ -277,6 +277,18 @@ func TestRewriting(t *testing.T) {
 	}
 }
 
+func TestSizeIsOfBothFiles(t *testing.T) {
+	d := disk.New()
+	j := opened(t, d)
+	j.Set(set(1, "a")...)
+	n := j.Size()
+	d.Append("journal.new", make([]byte, 7))
+	d.Append("other", make([]byte, 7))
+	if j.Size() != n+7 {
+		t.Error(j.Size(), n)
+	}
+}
+
 func TestRewritingOfNothing(t *testing.T) {
 	d, j := filled(t, api.Enough-5)
 	if e := j.Set(set(1, "", 7, "", 9, "")...); e != api.OK || j.Size() != 0 || len(j.Slots()) != 0 || !slices.Equal(d.Names(), []string{"journal"}) {

@@ -58,7 +58,7 @@ func TestWell(t *testing.T) {
 	for i, f := range []func(p *point.Point){
 		func(p *point.Point) { p.Ino = 0 }, func(p *point.Point) { p.Ino = 13 }, func(p *point.Point) { p.Ino = -1 }, func(p *point.Point) { p.Ino = math.MaxInt },
 		func(p *point.Point) { p.Gen = 0 }, func(p *point.Point) { p.Gen = 1<<40 + 1 }, func(p *point.Point) { p.Gen = math.MinInt }, func(p *point.Point) { p.Gen = math.MaxInt },
-		func(p *point.Point) { p.Live = !p.Live }, func(p *point.Point) { p.Len += 17 }, func(p *point.Point) { p.Len -= 17 }, func(p *point.Point) { p.At++ },
+		func(p *point.Point) { p.Live = !p.Live }, func(p *point.Point) { p.Len += 17 }, func(p *point.Point) { p.Len -= 17 }, func(p *point.Point) { p.Len = 17 }, func(p *point.Point) { p.Len = -1 }, func(p *point.Point) { p.At++ },
 		func(p *point.Point) { p.Line += 300 }, func(p *point.Point) { p.Long = true }, func(p *point.Point) { p.Open = !p.Open }, func(p *point.Point) { p.Event++ }, func(p *point.Point) { p.Size++ }, func(p *point.Point) { p.Ends = append(p.Ends, api.List{Done: true}) },
 		func(p *point.Point) { p.Cur.Place++ }, func(p *point.Point) { p.Alt.Held = []byte{0xE2} }, func(p *point.Point) { p.Con.Lists = []api.List{{}} }, func(p *point.Point) { p.Con.Held = []byte{1} }, func(p *point.Point) { p.Cur.Lists = make([]api.List, 3) },
 	} {

@@ -95,9 +95,9 @@ func TestParseErrors(t *testing.T) {
 		``, ` `, `poll `, ` poll`, `poll  `, "poll\n", "\tpoll", "poll\r", `Poll`, `polls`, `poll 1`, `poll poll`, `open ""`, `"poll"`, `""`, `"`, `x`, `0`, "\x00", "é", "poll\x7f",
 		`create`, `create `, `create a b`, `create  a`, `create "a"`, `create a"b`, `create é`, "create a\tb", "create \x7f", `remove`, `remove a b`, `remove "a"`, `create a "b"`,
 		`append`, `append log`, `append log a`, `append "log" "a"`, `append log "a" "b"`, `append log "a"b`, `append log "a`, `append log "a\"`, `append log "a" `, `append log  "a"`, `append log "a"b"`, `append log a"b"`,
-		`append log "\q"`, `append log "\x"`, `append log "\x0"`, `append log "\x0g"`, `append log "\xFF"`, `append log "\x0`, `append log "\`, `append log "\X00"`, `append log "\'"`, `append log "\u0041"`, `append log "\0"`, "append log \"\t\"", "append log \"\x7f\"", "append log \"é\"", "append log \"\n\"", `append log "\ "`, `append log "\xx0"`,
+		`append log "\q"`, `append log "\x"`, `append log "\x0"`, `append log "\x0g"`, `append log "\x0:"`, `append log "\x/0"`, `append log "\xFF"`, `append log "\x0`, `append log "\`, `append log "\X00"`, `append log "\'"`, `append log "\u0041"`, `append log "\0"`, "append log \"\t\"", "append log \"\x7f\"", "append log \"é\"", "append log \"\n\"", `append log "\ "`, `append log "\xx0"`,
 		`rename a`, `rename a b c`, `rename a "b"`, `rename "a" b`, `rename`,
-		`cut log`, `cut log 01`, `cut log 00`, `cut log -1`, `cut log +1`, `cut log 1x`, `cut log x`, `cut log "1"`, `cut log 1 2`, `cut log 4611686018427387905`, `cut log 9223372036854775808`, `cut log 18446744073709551617`, `cut log 46116860184273879040`, `cut log 1_0`, `cut log 0x1`, `cut log 1.0`,
+		`cut log`, `cut log 01`, `cut log 00`, `cut log -1`, `cut log +1`, `cut log 1x`, `cut log 1:`, `cut log 1/`, `cut log x`, `cut log "1"`, `cut log 1 2`, `cut log 4611686018427387905`, `cut log 9223372036854775808`, `cut log 18446744073709551617`, `cut log 46116860184273879040`, `cut log 1_0`, `cut log 0x1`, `cut log 1.0`,
 		`query`, `query x`, `query 01`, `query -0`, `query 1 2`, `query "1"`, `crash`, `crash -1`, `crash 1 1`, `crash ١`,
 		`load a`, `load "a" "b"`, `load a b`, `load a "x" b`, `load a "x" cont`, `load cont ""`, `load a "x" cont ""`, `load a "x" cont b`, `load "x"`, `load cont`, `load a "x" "y"`, `load a "x" cont "y" "z"`,
 	} {

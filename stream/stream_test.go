@@ -220,12 +220,27 @@ func TestWell(t *testing.T) {
 			t.Errorf("case %d: %d", i, e)
 		}
 	}
-	p := r.Prog()
 	far := closed
 	far.At, far.Line = 1<<40, 1<<40-1
 	if !stream.Well(r, far) {
 		t.Error("a stream far behind is well-formed")
 	}
+	// What a done list has found may lie anywhere up to the end of the event.
+	s := open
+	s.Ends = slices.Clone(s.Ends)
+	s.Ends[0].Best[1], s.Ends[0].Best[9] = s.Size, 0
+	if !stream.Well(r, s) {
+		t.Error("positions up to the size")
+	}
+}
+
+func TestNotWell(t *testing.T) {
+	r := loaded(t, "a", "x+", "b", "y", "^ ")
+	plain := loaded(t, "a", "x+", "b", "y")
+	open, closed, long, bare := after(t, r, "z\nxx\n y\n x"), after(t, r, "x"), after(t, r, y(300)), after(t, plain, "z\nx")
+	p := r.Prog()
+	far := closed
+	far.At, far.Line = 1<<40, 1<<40-1
 	for i, c := range []struct {
 		r *rules.Rules
 		s api.Stream
@@ -265,16 +280,26 @@ func TestWell(t *testing.T) {
 			t.Errorf("case %d: %d", i, e)
 		}
 	}
-	// What a done list has found may lie anywhere up to the end of the event.
-	s := open
-	s.Ends = slices.Clone(s.Ends)
-	s.Ends[0].Best[1], s.Ends[0].Best[9] = s.Size, 0
-	if !stream.Well(r, s) {
-		t.Error("positions up to the size")
-	}
+}
+
+func TestWellSizes(t *testing.T) {
+	r := loaded(t, "a", "x+", "b", "y", "^ ")
 	big := after(t, loaded(t, "a", "y", "^y"), y(200)+"\n"+y(200)+"\n"+y(98)+"\n")
 	if big.Size != 500 || !stream.Well(loaded(t, "a", "y", "^y"), big) {
 		t.Error("an event of 500 bytes")
+	}
+	// Sizes that cannot be, with all else as it would have to be.
+	q := r.Prog()
+	none := slices.Clone(ends(t, q, ""))
+	for size, want := range map[int]bool{500: true, 501: false, -1: false, 0: true} {
+		s := after(t, r, "x")
+		s.Event, s.Size, s.Open, s.Ends = 3, size, true, none
+		s.Line = s.Event + size + 1
+		s.At = s.Line + 1
+		s.Cur = scanned(t, q, y(size+2))
+		if stream.Well(r, s) != want {
+			t.Errorf("an event of %d bytes: %v", size, !want)
+		}
 	}
 }
 

@@ -160,7 +160,7 @@ func TestParseErrors(t *testing.T) {
 		// Counts.
 		{"a{31}", api.ErrLong, 1}, {"a{31,}", api.ErrLong, 1}, {"a{0,31}", api.ErrLong, 1}, {"a{31,32}", api.ErrLong, 1}, {"a{2,1}", api.ErrForm, 1}, {"a{32,31}", api.ErrForm, 1},
 		{"a{", api.ErrForm, 1}, {"a{}", api.ErrForm, 1}, {"a{,}", api.ErrForm, 1}, {"a{,5}", api.ErrForm, 1}, {"a{2", api.ErrForm, 1}, {"a{2,", api.ErrForm, 1}, {"a{2,3", api.ErrForm, 1},
-		{"a{ 2}", api.ErrForm, 1}, {"a{2 }", api.ErrForm, 1}, {"a{-1}", api.ErrForm, 1}, {"a{x}", api.ErrForm, 1}, {"a{2,x}", api.ErrForm, 1}, {"a{2,3,4}", api.ErrForm, 1}, {"a{2\xff}", api.ErrForm, 1},
+		{"a{ 2}", api.ErrForm, 1}, {"a{2 }", api.ErrForm, 1}, {"a{-1}", api.ErrForm, 1}, {"a{x}", api.ErrForm, 1}, {"a{1:}", api.ErrForm, 1}, {"a{/}", api.ErrForm, 1}, {"a{1,2:}", api.ErrForm, 1}, {"a{2,x}", api.ErrForm, 1}, {"a{2,3,4}", api.ErrForm, 1}, {"a{2\xff}", api.ErrForm, 1},
 		{"a{31", api.ErrForm, 1}, {"ab{99999999999999999999999999}", api.ErrLong, 2}, {"a{18446744073709551617}", api.ErrLong, 1},
 		{"a{99999999999999999999999999,99999999999999999999999998}", api.ErrForm, 1}, {"a{99999999999999999999999998,99999999999999999999999999}", api.ErrLong, 1},
 		{"a{100,99}", api.ErrForm, 1}, {"a{0100,99}", api.ErrForm, 1}, {"a{18446744073709551617,2}", api.ErrForm, 1}, {"a{9,18446744073709551617}", api.ErrLong, 1},
@@ -172,7 +172,7 @@ func TestParseErrors(t *testing.T) {
 		// Classes.
 		{"[", api.ErrForm, 0}, {"[]", api.ErrForm, 0}, {"[^", api.ErrForm, 0}, {"[^]", api.ErrForm, 0}, {"[]a]", api.ErrForm, 0}, {"[^]a]", api.ErrForm, 0}, {"[]\xff", api.ErrForm, 0}, {"x[]", api.ErrForm, 1},
 		{"[a", api.ErrForm, 0}, {"x[abc", api.ErrForm, 1}, {"[[", api.ErrForm, 1}, {"[a[", api.ErrForm, 2}, {"[-", api.ErrForm, 1}, {"[-a]", api.ErrForm, 1}, {"[^-a]", api.ErrForm, 2}, {"[a-c-e]", api.ErrForm, 4},
-		{"[a-", api.ErrForm, 1}, {"[a-]", api.ErrForm, 1}, {"[xa-]", api.ErrForm, 2}, {"[a--]", api.ErrForm, 1}, {"[a-[]", api.ErrForm, 1}, {"[a-\\d]", api.ErrForm, 1}, {"[a-\\w]", api.ErrForm, 1},
+		{"[a-", api.ErrForm, 1}, {"[a-]", api.ErrForm, 1}, {"[xa-]", api.ErrForm, 2}, {"[a--]", api.ErrForm, 1}, {"[a-[]", api.ErrForm, 1}, {"[!-[]", api.ErrForm, 1}, {"[!--]", api.ErrForm, 1}, {"[!-]", api.ErrForm, 1}, {"[!-]]", api.ErrForm, 1}, {"[!-", api.ErrForm, 1}, {"[a-\\d]", api.ErrForm, 1}, {"[a-\\w]", api.ErrForm, 1},
 		{"[\\d-z]", api.ErrForm, 1}, {"[\\s-]", api.ErrForm, 1}, {"[\\w-", api.ErrForm, 1}, {"[x\\w-\\d]", api.ErrForm, 2}, {"[z-a]", api.ErrForm, 1}, {"[xz-a]", api.ErrForm, 2}, {"[éé-a]", api.ErrForm, 3},
 		{"[a-\\q]", api.ErrForm, 3}, {"[a-\\", api.ErrForm, 3}, {"[a-\xff]", api.ErrForm, 3}, {"[a-\\\xff]", api.ErrForm, 4}, {"[\\d-\\q]", api.ErrForm, 4}, {"[\\d-\xff]", api.ErrForm, 4}, {"[\\d-\\", api.ErrForm, 4},
 		{"[\\d-\\\xff", api.ErrForm, 5}, {"[z-\\q]", api.ErrForm, 3}, {"[a\\q]", api.ErrForm, 2}, {"[\\q-a]", api.ErrForm, 1}, {"[a\\", api.ErrForm, 2}, {"[\\d-[]", api.ErrForm, 1}, {"[\\d--]", api.ErrForm, 1},

@@ -203,21 +203,21 @@ func TestBytesOfARune(t *testing.T) {
 	}
 }
 
+// good is a well-formed state of the rules ab* and c: 0 save, 1 a, 2 split, 3 b, 4 jump, 5 save, 6 match; 7 save, 8 c, 9 save, 10 match.
+func good() api.Machine {
+	return api.Machine{Place: 5, Lists: []api.List{list(true, caps(0, 5), thread(4, 0), thread(2, 5), thread(0)), list(false, caps(), thread(9, 3), thread(7))}}
+}
+
 func TestWell(t *testing.T) {
-	// 0 save, 1 a, 2 split, 3 b, 4 jump, 5 save, 6 match; 7 save, 8 c, 9 save, 10 match.
 	p := compiled(t, "ab*", "c")
-	good := func() api.Machine {
-		return api.Machine{Place: 5, Lists: []api.List{list(true, caps(0, 5), thread(4, 0), thread(2, 5), thread(0)), list(false, caps(), thread(9, 3), thread(7))}}
-	}
-	other := []func(m *api.Machine){
+	for i, f := range []func(m *api.Machine){
 		func(m *api.Machine) {},
 		func(m *api.Machine) { m.Place = 1 << 40 },
 		func(m *api.Machine) { m.Lists[0].Threads = nil },
 		func(m *api.Machine) { m.Lists[0].Best = caps() },
 		func(m *api.Machine) { m.Lists[0].Threads[0].Caps = caps(5, 5, 5, 5, 5, 5, 5, 5, 5, 5) },
 		func(m *api.Machine) { m.Lists[1] = list(true, caps(3, 2)) },
-	}
-	for i, f := range other {
+	} {
 		m := good()
 		f(&m)
 		if !vm.Well(p, m) {
@@ -228,6 +228,10 @@ func TestWell(t *testing.T) {
 			t.Errorf("case %d: %d", i, e)
 		}
 	}
+}
+
+func TestNotWell(t *testing.T) {
+	p := compiled(t, "ab*", "c")
 	for i, f := range []func(m *api.Machine){
 		func(m *api.Machine) { m.Place = -1 },
 		func(m *api.Machine) { m.Place = math.MinInt },
@@ -266,8 +270,14 @@ func TestWell(t *testing.T) {
 			t.Errorf("case %d: %d", i, e)
 		}
 	}
+}
+
+func TestWellOfSmallPrograms(t *testing.T) {
 	if vm.Well(api.Prog{Starts: []int{0}}, api.Machine{}) || !vm.Well(api.Prog{}, api.Machine{}) || !vm.Well(api.Prog{}, api.Machine{Place: 9}) {
 		t.Error("Well of small programs")
+	}
+	if vm.Well(api.Prog{}, api.Machine{Place: -1}) || vm.Well(api.Prog{}, api.Machine{Place: 1<<40 + 1}) || vm.Well(api.Prog{Code: []api.Ins{{Op: api.IClass}}, Starts: []int{0}}, api.Machine{Lists: []api.List{list(false, caps())}}) {
+		t.Error("Well of places and programs that cannot be")
 	}
 	// An IClass that the rule does not reach: no thread waits behind it.
 	q := api.Prog{Code: []api.Ins{{Op: api.IMatch}, {Op: api.IClass}, {Op: api.IMatch}}, Starts: []int{0}}
