@@ -41,7 +41,7 @@ func (p *printer) node() {
 	case api.NEnd:
 		p.add("$")
 	case api.NClass:
-		p.class(n.Ranges)
+		p.set(n.Ranges)
 	case api.NCat:
 		p.kids(n, "")
 	case api.NAlt:
@@ -106,12 +106,12 @@ func (p *printer) counts(n api.Node) {
 	}
 }
 
-func (p *printer) class(l []api.Range) {
+func (p *printer) set(l []api.Range) {
 	switch {
 	case slices.Equal(l, dot()):
 		p.add(".")
 	case single(l):
-		p.rune(l[0].Lo)
+		p.written(l[0].Lo)
 	case len(l) == 0:
 		p.add("[^")
 		p.ranges(class.Not(nil))
@@ -125,16 +125,16 @@ func (p *printer) class(l []api.Range) {
 
 func (p *printer) ranges(l []api.Range) {
 	for _, g := range l {
-		p.rune(g.Lo)
+		p.written(g.Lo)
 		if g.Hi != g.Lo {
 			p.add("-")
-			p.rune(g.Hi)
+			p.written(g.Hi)
 		}
 	}
 }
 
-// rune prints the written form of r.
-func (p *printer) rune(r rune) {
+// written prints the written form of r.
+func (p *printer) written(r rune) {
 	switch {
 	case r == '\n':
 		p.add("\\n")
