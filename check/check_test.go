@@ -82,7 +82,7 @@ func TestRight(t *testing.T) {
 			t.Errorf("case %d is not right: %v", i, p)
 		}
 		for rule := range len(p.Starts) + 1 {
-			if l := check.Reach(p, rule); l != nil {
+			if l := check.Reach(p, rule); len(l) != 0 {
 				t.Errorf("case %d reaches %v", i, l)
 			}
 		}
@@ -107,11 +107,11 @@ func TestReach(t *testing.T) {
 		}
 	}
 	for _, rule := range []int{2, -1, math.MinInt, math.MaxInt} {
-		if l := check.Reach(p, rule); l != nil {
+		if l := check.Reach(p, rule); len(l) != 0 {
 			t.Error(rule, l)
 		}
 	}
-	if l := check.Reach(api.Prog{}, 0); l != nil {
+	if l := check.Reach(api.Prog{}, 0); len(l) != 0 {
 		t.Error(l)
 	}
 	match := in(api.IMatch, 0, 0)

@@ -115,7 +115,7 @@ func TestErrors(t *testing.T) {
 	if d.Count() != 0 || !maps.Equal(all(d), before) {
 		t.Error("what was refused was done")
 	}
-	if b, ok := d.Read("c"); b != nil || ok {
+	if b, ok := d.Read("c"); len(b) != 0 || ok {
 		t.Error(b, ok)
 	}
 }

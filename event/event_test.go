@@ -103,10 +103,10 @@ func TestFinds(t *testing.T) {
 }
 
 func TestNilRules(t *testing.T) {
-	if l, open, some := event.Spans(nil, []byte("a\nb\n")); l != nil || open != (api.Span{}) || some {
+	if l, open, some := event.Spans(nil, []byte("a\nb\n")); len(l) != 0 || open != (api.Span{}) || some {
 		t.Error(l, open, some)
 	}
-	if l := event.Finds(nil, []byte("a\nb\n"+y(300))); l != nil {
+	if l := event.Finds(nil, []byte("a\nb\n"+y(300))); len(l) != 0 {
 		t.Error(l)
 	}
 }

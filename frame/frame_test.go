@@ -75,7 +75,7 @@ func TestNext(t *testing.T) {
 		{wrong, 0, "", 0, api.ErrSum}, {wrongSum, 0, "", 0, api.ErrSum}, {longer, 0, "", 0, api.ErrSum}, {append([]byte{0, 0, 0, 1}, ab[4:]...), 0, "", 0, api.ErrSum},
 	} {
 		p, next, e := frame.Next(c.b, c.at)
-		if string(p) != c.p || next != c.next || e != c.e || e != api.OK && p != nil {
+		if string(p) != c.p || next != c.next || e != c.e || e != api.OK && len(p) != 0 {
 			t.Errorf("case %d: %q, %d, %d", i, p, next, e)
 		}
 	}

@@ -75,7 +75,7 @@ func TestRight(t *testing.T) {
 	} {
 		for _, r := range []api.Record{match(1, 1, 5, "a", 0, 3), long(1, 1, 5)} {
 			f(&r)
-			if ledger.Right(r) || ledger.Put(r) != nil {
+			if ledger.Right(r) || len(ledger.Put(r)) != 0 {
 				t.Errorf("%v is not right", r)
 			}
 		}
@@ -85,7 +85,7 @@ func TestRight(t *testing.T) {
 	s.Rule = "a"
 	u.Caps[9] = 1
 	for _, r := range []api.Record{r, s, u, {}} {
-		if ledger.Right(r) || ledger.Put(r) != nil {
+		if ledger.Right(r) || len(ledger.Put(r)) != 0 {
 			t.Errorf("%v is not right", r)
 		}
 	}

@@ -2,7 +2,6 @@ package point_test
 
 import (
 	"math"
-	"reflect"
 	"strings"
 	"testing"
 
@@ -115,11 +114,11 @@ func TestDecode(t *testing.T) {
 			t.Errorf("case %d: %v, %d", i, got, e)
 		}
 		for k := range len(s) {
-			if got, e := point.Decode(r, s[:k]); e != api.ErrShort || !reflect.DeepEqual(got, point.Point{}) {
+			if got, e := point.Decode(r, s[:k]); e != api.ErrShort || !same(got, point.Point{}) {
 				t.Errorf("case %d, %d bytes: %d", i, k, e)
 			}
 		}
-		if got, e := point.Decode(r, s+"\x00"); e != api.ErrTail || !reflect.DeepEqual(got, point.Point{}) {
+		if got, e := point.Decode(r, s+"\x00"); e != api.ErrTail || !same(got, point.Point{}) {
 			t.Errorf("case %d, one byte more: %d", i, e)
 		}
 		want := api.OK
@@ -152,7 +151,7 @@ func TestDecodeErrors(t *testing.T) {
 		{r, "\x01\x01\x00\x01\x01" + hash + "\x00\x00" + body, api.ErrForm}, {r, "\x01\x01\x01\x0d\x01\x01" + hash + "\x00\x00" + body, api.ErrForm}, {r, "\x01\x01\x01\x01\x00" + hash + "\x00\x00" + body, api.ErrForm},
 		{r, "\x00\x00\x01\x01", api.ErrForm}, {r, "\x00\x01\x0d\x01\x01", api.ErrForm}, {r, "\x00\x01\x01\x00", api.ErrForm}, {nil, "\x00\x01\x01\x06\x01\x00\x00\x00\x00\x01", api.ErrForm}, {nil, "\x00\x01\x01\x01\x01\x00", api.ErrTail}, {nil, "\x00\x01\x0d\x01\x01\x00", api.ErrTail},
 	} {
-		if got, e := point.Decode(c.r, c.s); e != c.e || !reflect.DeepEqual(got, point.Point{}) {
+		if got, e := point.Decode(c.r, c.s); e != c.e || !same(got, point.Point{}) {
 			t.Errorf("case %d: %d, not %d", i, e, c.e)
 		}
 	}
@@ -185,7 +184,7 @@ func TestHostileBytes(t *testing.T) {
 		}
 		p, e := point.Decode(r, string(b))
 		if e != api.OK {
-			if !reflect.DeepEqual(p, point.Point{}) {
+			if !same(p, point.Point{}) {
 				t.Fatalf("%x: %d with a point", b, e)
 			}
 			continue

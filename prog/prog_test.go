@@ -177,7 +177,7 @@ func TestErrors(t *testing.T) {
 		{[][]api.Node{a, parsed(t, "(?:a{30}){30}"), nil}, api.ErrBig, 1},
 		{[][]api.Node{a, nil, parsed(t, "(?:a{30}){30}")}, api.ErrArg, 1},
 	} {
-		if p, e, n := prog.Compile(c.l...); e != c.e || n != c.n || p.Code != nil || p.Starts != nil {
+		if p, e, n := prog.Compile(c.l...); e != c.e || n != c.n || len(p.Code) != 0 || len(p.Starts) != 0 {
 			t.Errorf("case %d: %d at %d", i, e, n)
 		}
 	}

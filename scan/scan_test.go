@@ -3,7 +3,7 @@ package scan_test
 import (
 	"bytes"
 	"math"
-	"reflect"
+	"slices"
 	"testing"
 
 	"spoor/api"
@@ -54,16 +54,13 @@ func caps(l ...int) api.Caps {
 
 // same compares scans; empty slices are the same.
 func same(a, b api.Scan) bool {
-	if !bytes.Equal(a.Held, b.Held) || a.Place != b.Place || len(a.Lists) != len(b.Lists) {
-		return false
-	}
-	for i, x := range a.Lists {
-		y := b.Lists[i]
-		if x.Done != y.Done || x.Best != y.Best || len(x.Threads) != len(y.Threads) || len(x.Threads) > 0 && !reflect.DeepEqual(x.Threads, y.Threads) {
-			return false
-		}
-	}
-	return true
+	return bytes.Equal(a.Held, b.Held) && a.Place == b.Place && sameLists(a.Lists, b.Lists)
+}
+
+func sameLists(a, b []api.List) bool {
+	return slices.EqualFunc(a, b, func(x, y api.List) bool {
+		return x.Done == y.Done && x.Best == y.Best && slices.Equal(x.Threads, y.Threads)
+	})
 }
 
 var wrong = api.Prog{Code: []api.Ins{{Op: api.IClass}}, Starts: []int{0}}

@@ -13,6 +13,7 @@ import (
 	"spoor/journal"
 	"spoor/rules"
 	"spoor/script"
+	"spoor/stream"
 )
 
 // set makes a rule set of names and texts by turns; a last one alone is the continuation pattern.
@@ -415,13 +416,22 @@ func (d *dice) step() api.Step {
 
 // world tells all that can be seen of a world.
 func world(w *script.World) []any {
-	l := []any{w.Yard().Files(), w.Follower().Query(0), w.Follower().Entries()}
+	var l []any
+	for _, f := range w.Yard().Files() {
+		l = append(l, f)
+	}
+	for _, r := range w.Follower().Query(0) {
+		l = append(l, r)
+	}
+	for _, e := range w.Follower().Entries() {
+		l = append(l, e.Ino, e.Gen, e.Head, string(stream.Put(nil, e.Stream)))
+	}
 	for ino := range api.MaxYard {
 		l = append(l, w.Follower().Gen(ino+1))
 	}
 	r, ok := w.Follower().Rules()
 	if ok {
-		l = append(l, r.Set())
+		l = append(l, string(rules.Put(nil, r.Set())))
 	}
 	b, _ := w.Disk().Read("ledger")
 	return append(l, string(b))

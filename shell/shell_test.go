@@ -3,7 +3,6 @@ package shell_test
 import (
 	"bytes"
 	"math"
-	"reflect"
 	"slices"
 	"strconv"
 	"strings"
@@ -101,11 +100,11 @@ func TestParseErrors(t *testing.T) {
 		`query`, `query x`, `query 01`, `query -0`, `query 1 2`, `query "1"`, `crash`, `crash -1`, `crash 1 1`, `crash ١`,
 		`load a`, `load "a" "b"`, `load a b`, `load a "x" b`, `load a "x" cont`, `load cont ""`, `load a "x" cont ""`, `load a "x" cont b`, `load "x"`, `load cont`, `load a "x" "y"`, `load a "x" cont "y" "z"`,
 	} {
-		if s, e := shell.Parse(line); e != api.ErrForm || !reflect.DeepEqual(s, api.Step{}) {
+		if s, e := shell.Parse(line); e != api.ErrForm || !same(s, api.Step{}) {
 			t.Errorf("Parse(%q): %v, %d", line, s, e)
 		}
 	}
-	if s, e := shell.Parse("create " + strings.Repeat("n", 1994)); e != api.ErrLong || !reflect.DeepEqual(s, api.Step{}) {
+	if s, e := shell.Parse("create " + strings.Repeat("n", 1994)); e != api.ErrLong || !same(s, api.Step{}) {
 		t.Error(s, e)
 	}
 	if _, e := shell.Parse(strings.Repeat(" ", 2001)); e != api.ErrLong {

@@ -85,7 +85,7 @@ func same(a, b []api.Node) bool {
 func TestMakeOfWhatIsNotRight(t *testing.T) {
 	a := api.Node{Op: api.NClass, Ranges: []api.Range{{Lo: 'a', Hi: 'a'}}}
 	for _, l := range [][]api.Node{nil, {}, {a, a}, {{Op: api.NCat, Kids: 2}, a}, {{}}, {{Op: api.NRepeat, Min: 31, Max: -1, Kids: 1}, a}} {
-		if got := simple.Make(l); got != nil {
+		if got := simple.Make(l); len(got) != 0 {
 			t.Errorf("Make(%v) = %v", l, got)
 		}
 	}

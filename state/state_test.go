@@ -3,7 +3,6 @@ package state_test
 import (
 	"bytes"
 	"math"
-	"reflect"
 	"slices"
 	"strings"
 	"testing"
@@ -193,14 +192,14 @@ func TestEncode(t *testing.T) {
 	} {
 		s := after(t, p, "xa\xE2")
 		f(&s)
-		if got := state.Encode(p, s); got != nil {
+		if got := state.Encode(p, s); len(got) != 0 {
 			t.Errorf("case %d: %x", i, got)
 		}
 	}
-	if got := state.Encode(api.Prog{Starts: []int{0}}, api.Scan{}); got != nil {
+	if got := state.Encode(api.Prog{Starts: []int{0}}, api.Scan{}); len(got) != 0 {
 		t.Errorf("%x", got)
 	}
-	if got := state.Encode(compiled(t, "a", "b"), s); got != nil {
+	if got := state.Encode(compiled(t, "a", "b"), s); len(got) != 0 {
 		t.Errorf("a scan of another program: %x", got)
 	}
 }
@@ -227,7 +226,7 @@ func TestDecodeErrors(t *testing.T) {
 		{p, state.PutScan(hash, bad), api.ErrForm}, {p, append(state.PutScan(hash, bad), 0), api.ErrTail}, {p, state.PutScan(hash, api.Scan{}), api.ErrForm},
 		{p, state.PutScan(hash, api.Scan{Held: []byte("a"), Machine: s.Machine}), api.ErrForm},
 	} {
-		if got, e := state.Decode(c.p, c.b); e != c.e || !reflect.DeepEqual(got, api.Scan{}) {
+		if got, e := state.Decode(c.p, c.b); e != c.e || !same(got, api.Scan{}) {
 			t.Errorf("case %d: %d, not %d", i, e, c.e)
 		}
 	}
@@ -256,7 +255,7 @@ func TestSuspension(t *testing.T) {
 		}
 		x.Byte(c)
 		whole.Byte(c)
-		if !same(x.Scan(), whole.Scan()) || !reflect.DeepEqual(x.Ends(), whole.Ends()) {
+		if !same(x.Scan(), whole.Scan()) || !sameLists(x.Ends(), whole.Ends()) {
 			t.Fatalf("after %d bytes: the scans differ", i+1)
 		}
 	}
@@ -287,7 +286,7 @@ func TestHostileBytes(t *testing.T) {
 		}
 		s, e := state.Decode(p, b)
 		if e != api.OK {
-			if !reflect.DeepEqual(s, api.Scan{}) {
+			if !same(s, api.Scan{}) {
 				t.Fatalf("%x: %d with a scan", b, e)
 			}
 			continue

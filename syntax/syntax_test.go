@@ -182,7 +182,7 @@ func TestParseErrors(t *testing.T) {
 		// Too long.
 		{strings.Repeat("a", 121), api.ErrLong, 0}, {"**" + strings.Repeat("a", 121), api.ErrLong, 0}, {strings.Repeat("\xff", 121), api.ErrLong, 0},
 	} {
-		if l, e, at := syntax.Parse(c.s); l != nil || e != c.e || at != c.at {
+		if l, e, at := syntax.Parse(c.s); len(l) != 0 || e != c.e || at != c.at {
 			t.Errorf("Parse(%q): %d at %d, not %d at %d", c.s, e, at, c.e, c.at)
 		}
 	}
@@ -218,7 +218,7 @@ func TestEscapesOfPunctuation(t *testing.T) {
 				t.Errorf("%q: %d", s, e)
 			}
 		default:
-			if l != nil || e != api.ErrForm || at != 0 {
+			if len(l) != 0 || e != api.ErrForm || at != 0 {
 				t.Errorf("%q: %d at %d", s, e, at)
 			}
 		}
@@ -424,7 +424,7 @@ func TestAnyBytes(t *testing.T) {
 		}
 		l, e, at := syntax.Parse(string(b))
 		if e != api.OK {
-			if l != nil || at < 0 || at >= len(b) {
+			if len(l) != 0 || at < 0 || at >= len(b) {
 				t.Fatalf("%q: %d at %d", b, e, at)
 			}
 			continue

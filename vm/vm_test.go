@@ -2,7 +2,7 @@ package vm_test
 
 import (
 	"math"
-	"reflect"
+	"slices"
 	"strings"
 	"testing"
 
@@ -65,16 +65,13 @@ func feed(v *vm.VM, s string) {
 
 // same compares machines; lists of threads that are empty are the same.
 func same(a, b api.Machine) bool {
-	if a.Place != b.Place || len(a.Lists) != len(b.Lists) {
-		return false
-	}
-	for i, x := range a.Lists {
-		y := b.Lists[i]
-		if x.Done != y.Done || x.Best != y.Best || len(x.Threads) != len(y.Threads) || len(x.Threads) > 0 && !reflect.DeepEqual(x.Threads, y.Threads) {
-			return false
-		}
-	}
-	return true
+	return a.Place == b.Place && sameLists(a.Lists, b.Lists)
+}
+
+func sameLists(a, b []api.List) bool {
+	return slices.EqualFunc(a, b, func(x, y api.List) bool {
+		return x.Done == y.Done && x.Best == y.Best && slices.Equal(x.Threads, y.Threads)
+	})
 }
 
 func list(done bool, best api.Caps, l ...api.Thread) api.List {
@@ -388,7 +385,7 @@ func follow(t *testing.T, p api.Prog, text string) {
 			t.Fatalf("%v after %q: %d", p, text[:at], e)
 		}
 		ends := v.Ends()
-		if !reflect.DeepEqual(other.Ends(), ends) {
+		if !sameLists(other.Ends(), ends) {
 			t.Fatalf("%v after %q: another machine ends otherwise", p, text[:at])
 		}
 		for rule, l := range ends {

@@ -246,7 +246,7 @@ func TestReaderText(t *testing.T) {
 func zeros(r *wire.Reader) bool {
 	called := false
 	l := wire.Items(r, 100, func(r *wire.Reader) int { called = true; return 7 })
-	return r.Num() == 0 && r.Upto(100) == 0 && r.Text(100) == "" && !r.Flag() && l == nil && !called
+	return r.Num() == 0 && r.Upto(100) == 0 && r.Text(100) == "" && !r.Flag() && len(l) == 0 && !called
 }
 
 func TestErrorsStay(t *testing.T) {
@@ -328,7 +328,7 @@ func TestItems(t *testing.T) {
 		r := wire.Read([]byte(c.b))
 		calls := 0
 		l := wire.Items(r, c.most, func(r *wire.Reader) int { calls++; return r.Num() })
-		if l != nil || r.Err() != c.e || r.At() != c.at || calls != c.calls {
+		if len(l) != 0 || r.Err() != c.e || r.At() != c.at || calls != c.calls {
 			t.Errorf("Items of %x: %v, %d at %d, %d calls", c.b, l, r.Err(), r.At(), calls)
 		}
 	}
@@ -336,7 +336,7 @@ func TestItems(t *testing.T) {
 
 func TestItemsWithAnErrorAtTheEnd(t *testing.T) {
 	r := wire.Read([]byte("\x01\x01\x00"))
-	if l := wire.Items(r, 5, func(r *wire.Reader) string { return r.Text(0) + r.Text(0) }); l != nil || r.Err() != api.ErrShort {
+	if l := wire.Items(r, 5, func(r *wire.Reader) string { return r.Text(0) + r.Text(0) }); len(l) != 0 || r.Err() != api.ErrShort {
 		t.Error(l, r.Err())
 	}
 }
@@ -393,7 +393,7 @@ func TestRoundTrip(t *testing.T) {
 	}
 	for k := range b {
 		r := wire.Read(b[:k])
-		if got := wire.Items(r, 3, text); got != nil || r.Err() != api.ErrShort {
+		if got := wire.Items(r, 3, text); len(got) != 0 || r.Err() != api.ErrShort {
 			t.Errorf("%d bytes of the list: %q, %d", k, got, r.Err())
 		}
 	}

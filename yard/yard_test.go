@@ -63,7 +63,7 @@ func TestExampleRun(t *testing.T) {
 	if e := y.Cut("b", 4); e != api.ErrArg {
 		t.Error(e)
 	}
-	if b, e := y.Read(3, 0, 1); b != nil || e != api.ErrNone {
+	if b, e := y.Read(3, 0, 1); len(b) != 0 || e != api.ErrNone {
 		t.Error(b, e)
 	}
 }
@@ -219,7 +219,7 @@ func TestRead(t *testing.T) {
 		ino, at, n int
 		e          api.Errno
 	}{{1, -1, 1, api.ErrArg}, {1, 1, -1, api.ErrArg}, {1, math.MinInt, math.MinInt, api.ErrArg}, {2, 0, 1, api.ErrNone}, {2, -1, -1, api.ErrNone}, {0, 0, 1, api.ErrNone}, {-1, 0, 1, api.ErrNone}, {math.MaxInt, 0, 1, api.ErrNone}} {
-		if b, e := y.Read(c.ino, c.at, c.n); b != nil || e != c.e {
+		if b, e := y.Read(c.ino, c.at, c.n); len(b) != 0 || e != c.e {
 			t.Errorf("Read(%d, %d, %d): %q, %d", c.ino, c.at, c.n, b, e)
 		}
 	}
